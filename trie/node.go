@@ -49,14 +49,24 @@ func wordsAt(a *arena.Arena, place, class int) ([]uint32, bool) {
 	return words, true
 }
 
-// nodeAt is the node at that place.
+// nodeAt is the node at that place. What stands behind its words is not asked, since a lookup believes what it does not need.
 func nodeAt(a *arena.Arena, place int) (api.Node, bool) {
 	words, ok := wordsAt(a, place, classOf(nodeWords))
-	if !ok || words[nodeWords] != 0 {
+	if !ok {
 		return api.Node{}, false
 	}
 	n, err := bitmap.Decode(words)
 	return n, err == api.OK
+}
+
+// aloneAt is the node at that place, if nothing stands behind its words: those of a trie are so.
+func aloneAt(a *arena.Arena, place int) (api.Node, bool) {
+	n, ok := nodeAt(a, place)
+	behind, err := a.Load(place, nodeWords)
+	if !ok || err != api.OK || behind != 0 {
+		return api.Node{}, false
+	}
+	return n, true
 }
 
 // rowAt is the words of all bits of a set, which stand alone in a block of the least class; of an empty set none.

@@ -84,8 +84,13 @@ func (r reading) node(place int) (parts, bool) {
 		results:  int(w[1]),
 		children: int(w[2]),
 	}
-	ok = w[0]/32768%2 == 0 && (len(p.hops) == 0) == (w[1] == 0) && (len(p.kids) == 0) == (w[2] == 0) && w[3] == 0
+	ok = w[0]/32768%2 == 0 && (len(p.hops) == 0) == (w[1] == 0) && (len(p.kids) == 0) == (w[2] == 0)
 	return p, ok
+}
+
+// alone is whether a nought stands behind the words of the node at a place.
+func (r reading) alone(place int) bool {
+	return r.words[place+3] == 0
 }
 
 // list reads so many words that stand in a block of their own, of the least class.
@@ -105,7 +110,7 @@ func (r reading) list(place, n int) ([]uint32, bool) {
 func (r reading) trie(place, version int, path string, m table, places *[]int) bool {
 	p, ok := r.node(place)
 	deep := len(path) == widthOf(version)
-	if !ok || len(p.hops)+len(p.kids) == 0 || deep && (len(p.kids) > 0 || p.hops[len(p.hops)-1] != "") {
+	if !ok || !r.alone(place) || len(p.hops)+len(p.kids) == 0 || deep && (len(p.kids) > 0 || p.hops[len(p.hops)-1] != "") {
 		return false
 	}
 	hops, okHops := r.list(p.results, len(p.hops))

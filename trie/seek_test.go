@@ -156,7 +156,7 @@ func TestNextWhereThereIsNoNode(t *testing.T) {
 	l := layOne(t)
 	giveBack(t, l.a, []int{l.deepest})
 	places := append(wrongPlaces(l.a), 0, l.results-1, l.oneResults, l.deepestResults, l.children)
-	for _, q := range [][4]uint32{{1 << 15, 17}, {0, 17}, {1}, {0, 0, 17}, {1 << 16}, {1, 17, 0, 1}, {0, 0, 0, 1}} {
+	for _, q := range [][4]uint32{{1 << 15, 17}, {0, 17}, {1}, {0, 0, 17}, {1 << 16}, {1, 0, 17, 1}, {0, 0, 17, 1}} {
 		places = append(places, block(t, l.a, 2, q[:]...))
 	}
 	for class := range 6 {
@@ -212,6 +212,35 @@ func TestNextAsksForWhatItNeeds(t *testing.T) {
 		next("children at no place", four(0x40), 0, api.ErrTrie)
 		next("children at no place, for which it is not asked", four(0x50), 0, want)
 	}
+}
+
+// What stands behind a node's words is a matter of whether there is a trie: Next and Lookup do not ask it, all others do.
+func TestNextAndWhatIsBehindTheNode(t *testing.T) {
+	for _, x := range []uint32{1, 17, 1 << 15, 1 << 31, math.MaxUint32} {
+		for _, which := range []func(l laid) int{
+			func(l laid) int { return l.root },
+			func(l laid) int { return l.one },
+			func(l laid) int { return l.three },
+			func(l laid) int { return l.deepest },
+		} {
+			l := layOne(t)
+			put(t, l.a, which(l), 3, x)
+			steps(t, l.a, begin(t, four(0x10), l.root),
+				api.Seek{Place: l.one, Depth: 1, Bits: 0, Hop: 1, Found: true},
+				api.Seek{Depth: 1, Bits: 4, Hop: 4, Found: true, Over: true})
+			for _, addr := range []api.Addr{four(), four(0x10), four(0x20), four(128), four(0xf0, 0, 0, 1), four(0xf0, 0, 0, 2)} {
+				looks(t, l.a, l.root, laidTable(), addr)
+			}
+			stays(t, l.a, "what is refused", func() {
+				refused(t, "a word behind the node", l.a, l.root, 4, api.ErrTrie)
+			})
+		}
+	}
+	a := made(t, 100)
+	root := node(t, a, 0, 0, 0, 0)
+	put(t, a, root, 3, 1)
+	steps(t, a, begin(t, four(10), root), api.Seek{Over: true})
+	refused(t, "a word behind a node of nothing", a, root, 4, api.ErrTrie)
 }
 
 // A hop is what its word is, as long as there is one.
@@ -275,7 +304,7 @@ func TestLookup(t *testing.T) {
 // An error further down leaves nothing of what was found ahead of it; and what is wrong off the way is not asked for.
 func TestLookupOfWhatIsWrong(t *testing.T) {
 	l := layOne(t)
-	put(t, l.a, l.one, 3, 1)
+	put(t, l.a, l.one, 1, 0)
 	if h, found, err := trie.Lookup(l.a, l.root, four(0x10)); h != (api.Row{}) || found || err != api.ErrTrie {
 		t.Errorf("Lookup: %v, %t, %d", h, found, err)
 	}

@@ -63,7 +63,7 @@ func (w walk) nodes(at stop) iter.Seq2[stop, bool] {
 
 // read is the stop with what stands there.
 func (w walk) read(at stop) (stop, bool) {
-	n, ok := nodeAt(w.a, at.place)
+	n, ok := aloneAt(w.a, at.place)
 	if !ok || !mayStand(n, deepest(at.addr.Version)-at.depth) {
 		return stop{}, false
 	}
