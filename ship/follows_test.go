@@ -107,7 +107,7 @@ func ends(t *testing.T, one, other api.View, match uint64) int {
 	t.Helper()
 	start, most, turns := match, len(other.Entries)+12, 0
 	for ; !agree(one, other); turns++ {
-		if turns > most {
+		if turns == most {
 			t.Fatalf("from %d on, %v and %d entries, and %v and %d: it has %v and %d behind %d turns", start, one.Base.At, len(one.Entries), other.Base.At, most-12, other.Base.At, len(other.Entries), turns)
 		}
 		other, match = turn(t, one, other, match)
